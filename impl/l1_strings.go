@@ -23,12 +23,18 @@ func FormatInt(n int) (string, bool) {
 // and true. For any other string, including strings with leading zeros, a leading `+`, or `-0`,
 // it returns 0 and false.
 func ParseInt(s string) (int, bool) {
-	n, err := strconv.Atoi(s)
-	if err != nil {
+	n, ok := numberOf(s)
+	if !ok || n < -MaxDecimal || n > MaxDecimal {
 		return 0, false
 	}
-	// Atoi also takes leading zeros, signs and greater numbers: only what FormatInt writes counts.
-	if written, ok := FormatInt(n); !ok || written != s {
+	return n, true
+}
+
+// numberOf is ParseInt without its bounds, for the numbers in the texts of all chapters.
+func numberOf(s string) (int, bool) {
+	n, err := strconv.Atoi(s)
+	// Atoi also takes leading zeros and signs: only what is written anew counts.
+	if err != nil || strconv.Itoa(n) != s {
 		return 0, false
 	}
 	return n, true
