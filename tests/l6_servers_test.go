@@ -1549,9 +1549,16 @@ type serverArgs struct {
 	places  []int
 }
 
+// window is a list with room before it and behind it.
+func window(list ...int) []int {
+	return append([]int{-5}, append(list, -5, -5)...)[1 : len(list)+1]
+}
+
+// around is a window with the room behind it.
+func around(list []int) []int { return list[:len(list)+2] }
+
 // goodArgs are valid ones. All lists are windows with room behind them.
 func goodArgs() serverArgs {
-	window := func(list ...int) []int { return append([]int{-5}, append(list, -5, -5)...)[1 : len(list)+1] }
 	return serverArgs{
 		m: impl.Metric{Dist: [][]int{{55}, window(0, 3, 7), window(3, 0, 4), window(7, 4, 0), {66}}[1:4]},
 		x: 0, y: 2,
@@ -1850,7 +1857,6 @@ func TestChapter6RefusesOtherPlaces(t *testing.T) {
 // sameArgs says whether arguments are those of goodArgs, with what is around them.
 func sameArgs(s serverArgs) bool {
 	good := goodArgs()
-	around := func(list []int) []int { return list[:len(list)+2] }
 	all := func(s serverArgs) [][]int {
 		lists := [][]int{around(s.to), around(s.a), around(s.b), around(s.reqs), around(s.row), around(s.other), around(s.places), {s.x, s.y, s.r, len(s.m.Dist), len(s.configs)}}
 		for _, list := range slices.Concat(s.m.Dist, s.configs) {
@@ -1933,35 +1939,48 @@ var listsCalls = map[string]func(s serverArgs) ([][]int, bool){
 	},
 }
 
+// checkFresh checks that a list that a call returns has memory of its own, and that its arguments stay the same.
+func checkFresh(t *testing.T, name string, call func() ([]int, bool), same func() bool) {
+	t.Helper()
+	list, ok := call()
+	first := slices.Clone(list)
+	scribble(list)
+	if again, fine := call(); !ok || len(first) == 0 || !isList(again, fine, first...) || !same() {
+		t.Errorf("%s returns %v and then %v", name, first, again)
+	}
+}
+
+// checkFreshLists checks that each of the lists that a call returns has memory of its own, and that its arguments stay the same.
+func checkFreshLists(t *testing.T, name string, call func() ([][]int, bool), same func() bool) {
+	t.Helper()
+	first, ok := call()
+	if !ok || len(first) < 2 {
+		t.Fatalf("%s: %v, %v", name, first, ok)
+	}
+	for i := range first {
+		lists, _ := call()
+		scribble(lists[i])
+		for j, list := range lists {
+			if j != i && !slices.Equal(list, first[j]) {
+				t.Fatalf("%s: the lists %d and %d share memory", name, i, j)
+			}
+		}
+		clear(lists[:cap(lists)])
+		if again, ok := call(); !isLists(again, ok, first...) || !same() {
+			t.Fatalf("%s returns %v and then %v", name, first, again)
+		}
+	}
+}
+
 // Promise 13: results have memory of their own, each list of them too.
 func TestChapter6ResultsShareNoMemory(t *testing.T) {
 	s := goodArgs()
+	same := func() bool { return sameArgs(s) }
 	for name, f := range listCalls {
-		list, ok := f(s)
-		first := slices.Clone(list)
-		scribble(list)
-		if again, fine := f(s); !ok || !isList(again, fine, first...) || !sameArgs(s) {
-			t.Errorf("%s returns %v and then %v", name, first, again)
-		}
+		checkFresh(t, name, func() ([]int, bool) { return f(s) }, same)
 	}
 	for name, f := range listsCalls {
-		first, ok := f(s)
-		if !ok || len(first) < 2 {
-			t.Fatalf("%s: %v, %v", name, first, ok)
-		}
-		for i := range first {
-			lists, _ := f(s)
-			scribble(lists[i])
-			for j, list := range lists {
-				if j != i && !slices.Equal(list, first[j]) {
-					t.Fatalf("%s: the lists %d and %d share memory", name, i, j)
-				}
-			}
-			clear(lists[:cap(lists)])
-			if again, ok := f(s); !isLists(again, ok, first...) || !sameArgs(s) {
-				t.Fatalf("%s returns %v and then %v", name, first, again)
-			}
-		}
+		checkFreshLists(t, name, func() ([][]int, bool) { return f(s) }, same)
 	}
 	tree, _, _ := impl.SpanningTree(s.m)
 	clear(tree[:cap(tree)])
