@@ -1084,7 +1084,7 @@ func TestChapter10TakesWhatIsValid(t *testing.T) {
 }
 
 func TestChapter10RefusesWhatIsNoProblem(t *testing.T) {
-	refuse := func(p impl.Problem, what any) {
+	eachNoProblem(func(p impl.Problem, what any) {
 		t.Helper()
 		one := gameArgs{p: p, strategy: [][]int{{0}}, ratio: over(1, 1), table: []int{0}, asks: []int{0}, debts: []int{0}, delays: []int{0}}
 		good := goodGame()
@@ -1092,22 +1092,7 @@ func TestChapter10RefusesWhatIsNoProblem(t *testing.T) {
 		for _, s := range []gameArgs{good, one, {p: p}, {p: p, ratio: over(1, 1)}} {
 			refuseGame(t, "p", s, what)
 		}
-	}
-	for _, m := range append(badTables(), symmetric(3, []int{-1, 7, 4}), symmetric(3, []int{3, 8, 4}), symmetric(2, []int{-1}), symmetric(5, slices.Repeat([]int{1}, 10))) {
-		for _, n := range []int{1, 3, min(len(m.Dist), 9)} {
-			refuse(impl.Problem{Move: m.Dist, Serve: [][]int{make([]int, n)}}, m.Dist[:min(len(m.Dist), 6)])
-			refuse(impl.Problem{Move: m.Dist, Serve: [][]int{make([]int, n), make([]int, n)}}, m.Dist[:min(len(m.Dist), 6)])
-		}
-		refuse(impl.Problem{Move: m.Dist}, m.Dist[:min(len(m.Dist), 6)])
-	}
-	refuse(impl.Problem{}, "no states")
-	move := goodGame().p.Move
-	for _, serve := range [][][]int{
-		nil, {}, {nil}, {{}}, {{0, 0, 0}, nil}, {{0, 0}, {0, 0}}, {{0, 0, 0, 0}}, {{0, 0, 0}, {0, 0}}, {{-1, -1, -1}}, {{0, 0, 0}, {-1, -1, -1}},
-		{{0, 0, 21}, {0, 0, 0}}, {{0, -2, 0}, {0, 0, 0}}, {{0, 0, 0}, {0, math.MaxInt, 0}}, {{math.MinInt, 0, 0}, {0, 0, 0}}, slices.Repeat([][]int{{0, 0, 0}}, 5), slices.Repeat([][]int{{0, 0, 0}}, 100000),
-	} {
-		refuse(impl.Problem{Move: move, Serve: serve}, len(serve))
-	}
+	})
 }
 
 // Problems with more than MaxPositions or MaxOffsets, with lists that would fit otherwise.

@@ -1104,8 +1104,27 @@ func TestChapter9TakesWhatIsValid(t *testing.T) {
 	}
 }
 
+// eachNoProblem calls refuse with what is no Problem, though most of it is nearly one of three states, and a short form of it for messages.
+func eachNoProblem(refuse func(p impl.Problem, what any)) {
+	for _, m := range append(badTables(), symmetric(3, []int{-1, 7, 4}), symmetric(3, []int{3, 8, 4}), symmetric(2, []int{-1}), symmetric(5, slices.Repeat([]int{1}, 10))) {
+		for _, n := range []int{1, 3, min(len(m.Dist), 9)} {
+			refuse(impl.Problem{Move: m.Dist, Serve: [][]int{make([]int, n)}}, m.Dist[:min(len(m.Dist), 6)])
+			refuse(impl.Problem{Move: m.Dist, Serve: [][]int{make([]int, n), make([]int, n)}}, m.Dist[:min(len(m.Dist), 6)])
+		}
+		refuse(impl.Problem{Move: m.Dist}, m.Dist[:min(len(m.Dist), 6)])
+	}
+	refuse(impl.Problem{}, "no states")
+	move := goodProblem().p.Move
+	for _, serve := range [][][]int{
+		nil, {}, {nil}, {{}}, {{0, 0, 0}, nil}, {{0, 0}, {0, 0}}, {{0, 0, 0, 0}}, {{0, 0, 0}, {0, 0}}, {{-1, -1, -1}}, {{0, 0, 0}, {-1, -1, -1}},
+		{{0, 0, 21}, {0, 0, 0}}, {{0, -2, 0}, {0, 0, 0}}, {{0, 0, 0}, {0, math.MaxInt, 0}}, {{math.MinInt, 0, 0}, {0, 0, 0}}, slices.Repeat([][]int{{0, 0, 0}}, 5), slices.Repeat([][]int{{0, 0, 0}}, 100000),
+	} {
+		refuse(impl.Problem{Move: move, Serve: serve}, len(serve))
+	}
+}
+
 func TestChapter9RefusesWhatIsNoProblem(t *testing.T) {
-	refuse := func(p impl.Problem, what any) {
+	eachNoProblem(func(p impl.Problem, what any) {
 		t.Helper()
 		one := potentialArgs{p: p, next: [][]int{{0}}, ratio: over(1, 1), table: []int{0}, cycle: []int{0}}
 		all := one
@@ -1117,22 +1136,7 @@ func TestChapter9RefusesWhatIsNoProblem(t *testing.T) {
 			s.ratio = over(0, 1)
 			refusePotential(t, "p", s, what)
 		}
-	}
-	for _, m := range append(badTables(), symmetric(3, []int{-1, 7, 4}), symmetric(3, []int{3, 8, 4}), symmetric(2, []int{-1}), symmetric(5, slices.Repeat([]int{1}, 10))) {
-		for _, n := range []int{1, 3, min(len(m.Dist), 9)} {
-			refuse(impl.Problem{Move: m.Dist, Serve: [][]int{make([]int, n)}}, m.Dist[:min(len(m.Dist), 6)])
-			refuse(impl.Problem{Move: m.Dist, Serve: [][]int{make([]int, n), make([]int, n)}}, m.Dist[:min(len(m.Dist), 6)])
-		}
-		refuse(impl.Problem{Move: m.Dist}, m.Dist[:min(len(m.Dist), 6)])
-	}
-	refuse(impl.Problem{}, "no states")
-	move := goodPotential().p.Move
-	for _, serve := range [][][]int{
-		nil, {}, {nil}, {{}}, {{0, 0, 0}, nil}, {{0, 0}, {0, 0}}, {{0, 0, 0, 0}}, {{0, 0, 0}, {0, 0}}, {{-1, -1, -1}}, {{0, 0, 0}, {-1, -1, -1}},
-		{{0, 0, 21}, {0, 0, 0}}, {{0, -2, 0}, {0, 0, 0}}, {{0, 0, 0}, {0, math.MaxInt, 0}}, {{math.MinInt, 0, 0}, {0, 0, 0}}, slices.Repeat([][]int{{0, 0, 0}}, 5), slices.Repeat([][]int{{0, 0, 0}}, 100000),
-	} {
-		refuse(impl.Problem{Move: move, Serve: serve}, len(serve))
-	}
+	})
 }
 
 func TestChapter9RefusesWhatIsNoStateOrRequest(t *testing.T) {
